@@ -92,22 +92,30 @@ func eachGroup(least, most int, check func(group [][][]int)) {
 	}
 }
 
-// countByRows tries all rows for an image with these sums, one after the other.
-func countByRows(rows []int, left colSums, nCols int) int {
+// imagesByRows tries all rows for the images with these sums, one after the other, in lexicographic order.
+func imagesByRows(rows []int, left colSums, nCols int) [][][]int {
 	if len(rows) == 0 {
 		if left == (colSums{}) {
-			return 1
+			return [][][]int{nil}
 		}
-		return 0
+		return nil
 	}
-	count := 0
+	var all [][][]int
 	for n := range 1 << nCols {
 		row := ordered(1, nCols, n)[0]
 		if rest := without(left, row); total(row) == rows[0] && slices.Min(rest[:]) >= 0 {
-			count += countByRows(rows[1:], rest, nCols)
+			for _, below := range imagesByRows(rows[1:], rest, nCols) {
+				all = append(all, append([][]int{row}, below...))
+			}
 		}
 	}
-	return count
+	return all
+}
+
+// groupOf returns all images with the sums of m.
+func groupOf(m [][]int) [][][]int {
+	rows, cols := rowsAndCols(m)
+	return imagesByRows(rows, colSumsOf(cols), len(cols))
 }
 
 // flooded returns the texts of all images that switches lead to from m, itself included.
@@ -360,8 +368,7 @@ func TestP3SwitchesJoinGreaterImages(t *testing.T) {
 		"#####/####./###../##.../#....", "#.#.#/.#.#./#.#.#/.#.#./#.#.#", "##../.##./..##/#..#/##..", "#.#.#/.#.#./#.#.#/.#.#.", "##.##/#..#.", "#./.#/##/../#.",
 	} {
 		m := drawn(text)
-		rows, cols := rowsAndCols(m)
-		if found, count := len(flooded(m)), countByRows(rows, colSumsOf(cols), len(cols)); found != count {
+		if found, count := len(flooded(m)), len(groupOf(m)); found != count {
 			t.Errorf("switches lead from %s to %d images, but %d have its sums", text, found, count)
 		}
 	}
@@ -370,8 +377,7 @@ func TestP3SwitchesJoinGreaterImages(t *testing.T) {
 func TestP3UniqueImagesOfAllSizes(t *testing.T) {
 	t.Parallel()
 	for _, m := range manyImages() {
-		rows, cols := rowsAndCols(m)
-		if count := countByRows(rows, colSumsOf(cols), len(cols)); impl.IsUnique(m) != (count == 1) {
+		if count := len(groupOf(m)); impl.IsUnique(m) != (count == 1) {
 			t.Errorf("IsUnique(%v) = %t, but %d images have its sums", m, impl.IsUnique(m), count)
 		}
 	}
