@@ -235,14 +235,7 @@ func TestP9SumsWithoutAnImage(t *testing.T) {
 
 func TestP9FixedCellsIsFixedAndFreeCells(t *testing.T) {
 	for _, c := range agreements {
-		var want [][]int
-		for _, line := range strings.Split(c.cells, "/") {
-			var row []int
-			for _, sign := range line {
-				row = append(row, strings.IndexRune("?.#", sign)-1)
-			}
-			want = append(want, row)
-		}
+		want := masked(c.cells)
 		if got := impl.FixedCells(c.rows, c.cols); !same(got, want) {
 			t.Errorf("FixedCells(%v, %v) = %v, want %s", c.rows, c.cols, got, c.cells)
 		}
