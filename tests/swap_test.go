@@ -59,12 +59,11 @@ func changed(m [][]int, s impl.Switch) [][]int {
 	return c
 }
 
-// imagesBySums returns all images of a size, those with the same sums together.
-func imagesBySums(nRows, nCols int) [][][][]int {
+// groupedBySums puts images with the same sums together, and leaves them in order.
+func groupedBySums(list [][][]int) [][][][]int {
 	var groups [][][][]int
 	places := map[[2]colSums]int{}
-	for n := range 1 << (nRows * nCols) {
-		m := ordered(nRows, nCols, n)
+	for _, m := range list {
 		rows, cols := rowsAndCols(m)
 		key := [2]colSums{colSumsOf(rows), colSumsOf(cols)}
 		place, known := places[key]
@@ -76,6 +75,15 @@ func imagesBySums(nRows, nCols int) [][][][]int {
 		groups[place] = append(groups[place], m)
 	}
 	return groups
+}
+
+// imagesBySums returns all images of a size, those with the same sums together.
+func imagesBySums(nRows, nCols int) [][][][]int {
+	var all [][][]int
+	for n := range 1 << (nRows * nCols) {
+		all = append(all, ordered(nRows, nCols, n))
+	}
+	return groupedBySums(all)
 }
 
 // eachGroup calls check for the images with the same sums, for all sizes from least to most cells.
