@@ -653,16 +653,17 @@ func callConvex(texts []string) {
 	}
 }
 
-func TestP9NoGoroutineIsLeftBehind(t *testing.T) {
-	texts := []string{".", "#", "#./.#", "##./.##", "#.#.#/.#.#./#.#.#/.#.#./#.#.#", "#####/....#/###.#/#...#/#####", "#####/#####/#####/#####/#####", "...../...../...../...../.....", "##.../##.../..##./..##./.....", "######", "#./#"}
+// checkNoGoroutineLeft checks that the call starts no goroutine that goes on after it.
+func checkNoGoroutineLeft(t *testing.T, call func()) {
+	t.Helper()
 	// A goroutine that waits for ever after its call, or a call that waits for ever itself, is a deadlock here, which fails the test.
 	synctest.Test(t, func(t *testing.T) {
-		callConvex(texts)
+		call()
 		synctest.Wait()
 	})
 	before := runtime.NumGoroutine()
-	callConvex(texts)
-	// A goroutine that has closed its channel may need a moment to end.
+	call()
+	// A goroutine that has nothing left to do may need a moment to end.
 	for range 1000000 {
 		if runtime.NumGoroutine() <= before {
 			return
@@ -670,6 +671,11 @@ func TestP9NoGoroutineIsLeftBehind(t *testing.T) {
 		runtime.Gosched()
 	}
 	t.Errorf("there were %d goroutines before, and are %d now", before, runtime.NumGoroutine())
+}
+
+func TestP9NoGoroutineIsLeftBehind(t *testing.T) {
+	texts := []string{".", "#", "#./.#", "##./.##", "#.#.#/.#.#./#.#.#/.#.#./#.#.#", "#####/....#/###.#/#...#/#####", "#####/#####/#####/#####/#####", "...../...../...../...../.....", "##.../##.../..##./..##./.....", "######", "#./#"}
+	checkNoGoroutineLeft(t, func() { callConvex(texts) })
 }
 
 // TestP9PiecesByGoroutines is also run with the race detector, where .ci/run can build it.

@@ -144,7 +144,7 @@ func (c masking) margin(first, second int) int {
 // bitsOf returns the places of the bits that are set.
 func bitsOf(n int) []int {
 	list := []int{}
-	for i := range 10 {
+	for i := 0; n>>i != 0; i++ {
 		if n>>i&1 == 1 {
 			list = append(list, i)
 		}
