@@ -83,7 +83,9 @@ func distanceByHand(a, b [][]int) int {
 	return n
 }
 
-func comesFirst(a, b [][]int) bool { return slices.Compare(slices.Concat(a...), slices.Concat(b...)) < 0 }
+func comesFirst(a, b [][]int) bool {
+	return slices.Compare(slices.Concat(a...), slices.Concat(b...)) < 0
+}
 
 // checkNearest checks that no image of the group, which has all images with its sums, is nearer to the prior, nor as near and less.
 func checkNearest(t *testing.T, group [][][]int, prior [][]int) {
